@@ -14,28 +14,14 @@ import (
 	"trommel/name"
 	"trommel/parse"
 	"trommel/print"
-	"trommel/rows"
 	"trommel/sample"
 	"trommel/schema"
 	"trommel/tree"
 	"trommel/val"
 )
 
-// v makes values of numbers, texts, and nil.
-func v(l ...any) []api.Val {
-	out := []api.Val{}
-	for _, x := range l {
-		switch x := x.(type) {
-		case int:
-			out = append(out, val.Int(x))
-		case string:
-			out = append(out, val.Text(x))
-		default:
-			out = append(out, val.Null())
-		}
-	}
-	return out
-}
+// v makes a row of numbers, texts, and nil.
+var v = sample.Row
 
 func table(name, cols string, l ...[]api.Val) api.Table {
 	t := api.Table{Name: name, Rows: l}
@@ -166,9 +152,7 @@ func TestRunWrong(t *testing.T) {
 
 func col(t, c int) api.Expr { return api.Expr{Op: api.OpCol, T: t, C: c} }
 
-func same(a, b [][][]api.Val) bool {
-	return slices.EqualFunc(a, b, func(x, y [][]api.Val) bool { return slices.EqualFunc(x, y, rows.Same) })
-}
+var same = sample.SameEnvs
 
 // P15.1: by hand, in order.
 func TestEnvs(t *testing.T) {

@@ -15,28 +15,16 @@ import (
 	"trommel/plan"
 	"trommel/print"
 	"trommel/ready"
-	"trommel/rows"
 	"trommel/sample"
 	"trommel/sift"
 	"trommel/tree"
 	"trommel/val"
 )
 
-func v(l ...any) []api.Val {
-	out := []api.Val{}
-	for _, x := range l {
-		if n, ok := x.(int); ok {
-			out = append(out, val.Int(n))
-		} else {
-			out = append(out, val.Null())
-		}
-	}
-	return out
-}
+// v makes a row of numbers, texts, and nil.
+var v = sample.Row
 
-func same(a, b [][][]api.Val) bool {
-	return slices.EqualFunc(a, b, func(x, y [][]api.Val) bool { return slices.EqualFunc(x, y, rows.Same) })
-}
+var same = sample.SameEnvs
 
 func tables() []api.Table {
 	cols := []api.Column{{Name: "x", Kind: 1}, {Name: "y", Kind: 1}}
@@ -251,10 +239,7 @@ func some(t *testing.T, seed int) (api.Plan, []api.Table, string, *sample.Dice) 
 		t.Fatal(e)
 	}
 	n := norm.Of(q)
-	var ord []int
-	for i := range n.Core {
-		ord = slices.Insert(ord, d.To(i+1), i)
-	}
+	ord := sample.Order(d, n.Core)
 	filters := place.All(n, ord)
 	filters = slices.DeleteFunc(filters, func(api.Filter) bool { return d.To(4) == 0 })
 	tables, _ := name.Tables(db, q.From)

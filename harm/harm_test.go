@@ -15,20 +15,10 @@ import (
 	"trommel/rows"
 	"trommel/run"
 	"trommel/sample"
-	"trommel/val"
 )
 
-func v(l ...any) []api.Val {
-	out := []api.Val{}
-	for _, x := range l {
-		if n, ok := x.(int); ok {
-			out = append(out, val.Int(n))
-		} else {
-			out = append(out, val.Null())
-		}
-	}
-	return out
-}
+// v makes a row of numbers, texts, and nil.
+var v = sample.Row
 
 func same(a, b [][]api.Val) bool { return slices.EqualFunc(a, b, rows.Same) }
 

@@ -257,10 +257,7 @@ func TestDroppedRowsMayGo(t *testing.T) {
 			t.Fatal(e)
 		}
 		n := norm.Of(q)
-		var order []int
-		for i := range n.Core {
-			order = slices.Insert(order, d.To(i+1), i)
-		}
+		order := sample.Order(d, n.Core)
 		tables, _ := name.Tables(db, q.From)
 		want, e := deno.Rows(deno.Where(deno.Envs(tables, q.From), q.Where), q)
 		for _, f := range place.All(n, order) {

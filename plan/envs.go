@@ -5,6 +5,7 @@ import (
 
 	"trommel/api"
 	"trommel/eval"
+	"trommel/joins"
 	"trommel/rows"
 	"trommel/semi"
 )
@@ -17,7 +18,7 @@ func Envs(p api.Plan, tables []api.Table) [][][]api.Val {
 	t := Driver(p)
 	var envs []env
 	for _, r := range scanned(p, tables, t) {
-		if first := with(make(env, len(p.Pipes)), t, r); eval.Holds(p.First, first) {
+		if first := joins.With(make(env, len(p.Pipes)), t, r); eval.Holds(p.First, first) {
 			envs = append(envs, first)
 		}
 	}
@@ -34,18 +35,9 @@ func scanned(p api.Plan, tables []api.Table, t int) [][]api.Val {
 		return nil
 	}
 	for _, r := range tables[t].Rows {
-		if eval.Holds(p.Pipes[t].Scan, with(make(env, len(p.Pipes)), t, r)) {
+		if eval.Holds(p.Pipes[t].Scan, joins.With(make(env, len(p.Pipes)), t, r)) {
 			out = append(out, r)
 		}
-	}
-	return out
-}
-
-// with: another row, if there is such a place.
-func with(e env, t int, r []api.Val) env {
-	out := slices.Clone(e)
-	if t >= 0 && t < len(out) {
-		out[t] = r
 	}
 	return out
 }
@@ -58,26 +50,15 @@ func joined(p api.Plan, tables []api.Table, probe api.Probe, envs []env) []env {
 		met := false
 		each(e, func(next env) {
 			met = true
-			if probe.Join != api.JoinSemi && probe.Join != api.JoinAnti {
+			if !joins.Asks(probe.Join) {
 				out = append(out, next)
 			}
 		})
-		if alone(probe.Join, met) {
-			out = append(out, with(e, probe.Table, nil))
+		if joins.Alone(probe.Join, met) {
+			out = append(out, joins.With(e, probe.Table, nil))
 		}
 	}
 	return out
-}
-
-// alone: does an environment go on with an empty row?
-func alone(join int, met bool) bool {
-	switch join {
-	case api.JoinSemi:
-		return met
-	case api.JoinLeft, api.JoinAnti:
-		return !met
-	}
-	return false
 }
 
 // matcher hands an environment, with each row that matches, to a function.
@@ -99,7 +80,7 @@ func matcher(probe api.Probe, l [][]api.Val) func(e env, met func(next env)) {
 			if !semi.Match(key, keys[i]) {
 				continue
 			}
-			if next := with(e, probe.Table, r); eval.Holds(probe.Rest, next) {
+			if next := joins.With(e, probe.Table, r); eval.Holds(probe.Rest, next) {
 				met(next)
 			}
 		}

@@ -211,21 +211,10 @@ func TestFind(t *testing.T) {
 	}
 }
 
-func v(l ...any) []api.Val {
-	out := []api.Val{}
-	for _, x := range l {
-		if n, ok := x.(int); ok {
-			out = append(out, val.Int(n))
-		} else {
-			out = append(out, val.Null())
-		}
-	}
-	return out
-}
+// v makes a row of numbers, texts, and nil.
+var v = sample.Row
 
-func same(a, b [][][]api.Val) bool {
-	return slices.EqualFunc(a, b, func(x, y [][]api.Val) bool { return slices.EqualFunc(x, y, rows.Same) })
-}
+var same = sample.SameEnvs
 
 // P32.3: by hand, in order.
 func TestEnvs(t *testing.T) {
@@ -317,10 +306,7 @@ func TestSameAsDeno(t *testing.T) {
 			t.Fatal(e)
 		}
 		n := norm.Of(q)
-		var ord []int
-		for i := range n.Core {
-			ord = slices.Insert(ord, d.To(i+1), i)
-		}
+		ord := sample.Order(d, n.Core)
 		tables, _ := name.Tables(db, q.From)
 		p := plan.Of(n, ord, place.All(n, ord))
 		got := bag(plan.Envs(p, tables), len(tables))

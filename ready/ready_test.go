@@ -134,10 +134,7 @@ func TestPlans(t *testing.T) {
 			t.Fatal(e)
 		}
 		n := norm.Of(q)
-		var ord []int
-		for i := range n.Core {
-			ord = slices.Insert(ord, d.To(i+1), i)
-		}
+		ord := sample.Order(d, n.Core)
 		p := plan.Of(n, ord, place.All(n, ord))
 		order := ready.Order(p)
 		if !ready.Acyclic(p) || order[len(order)-1] != plan.Driver(p) {

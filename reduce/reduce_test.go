@@ -11,21 +11,10 @@ import (
 	"trommel/rows"
 	"trommel/sample"
 	"trommel/semi"
-	"trommel/val"
 )
 
-// v makes values of numbers, and nil.
-func v(l ...any) []api.Val {
-	out := []api.Val{}
-	for _, x := range l {
-		if n, ok := x.(int); ok {
-			out = append(out, val.Int(n))
-		} else {
-			out = append(out, val.Null())
-		}
-	}
-	return out
-}
+// v makes a row of numbers, texts, and nil.
+var v = sample.Row
 
 func rel(cols []int, l ...[]api.Val) api.Rel { return api.Rel{Cols: cols, Rows: l} }
 

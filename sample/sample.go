@@ -2,10 +2,12 @@
 package sample
 
 import (
+	"slices"
 	"strconv"
 	"strings"
 
 	"trommel/api"
+	"trommel/rows"
 	"trommel/val"
 )
 
@@ -157,4 +159,36 @@ func items(d *Dice, seen []string, from string) string {
 		return "select " + s + ", sum(" + x + " * " + y + ") from " + from + " group by " + s + ", " + x
 	}
 	return "select " + x + ", " + s + ", " + y + " from " + from
+}
+
+// Order: the numbers from 0 to n - 1, in any order.
+func Order(d *Dice, n int) []int {
+	var out []int
+	for i := range n {
+		out = slices.Insert(out, d.To(i+1), i)
+	}
+	return out
+}
+
+// Row: a row of numbers, texts, values as they are, and null for all else.
+func Row(l ...any) []api.Val {
+	out := []api.Val{}
+	for _, x := range l {
+		switch x := x.(type) {
+		case int:
+			out = append(out, val.Int(x))
+		case string:
+			out = append(out, val.Text(x))
+		case api.Val:
+			out = append(out, x)
+		default:
+			out = append(out, val.Null())
+		}
+	}
+	return out
+}
+
+// SameEnvs: are these the same environments, in order?
+func SameEnvs(a, b [][][]api.Val) bool {
+	return slices.EqualFunc(a, b, func(x, y [][]api.Val) bool { return slices.EqualFunc(x, y, rows.Same) })
 }

@@ -1,11 +1,13 @@
 package sample_test
 
 import (
+	"slices"
 	"testing"
 
 	"trommel/api"
 	"trommel/deno"
 	"trommel/sample"
+	"trommel/val"
 )
 
 // What is made may be, and is the same for the same seed.
@@ -36,5 +38,27 @@ func TestNone(t *testing.T) {
 	d := sample.New(1)
 	if d.To(0) != 0 || d.To(-3) != 0 || d.One() != "" {
 		t.Error("of none")
+	}
+}
+
+func TestOrder(t *testing.T) {
+	d := sample.New(1)
+	for n := range 9 {
+		got := sample.Order(d, n)
+		slices.Sort(got)
+		if len(got) != n || n > 0 && (got[0] != 0 || got[n-1] != n-1) {
+			t.Error(n, got)
+		}
+	}
+}
+
+func TestRow(t *testing.T) {
+	got := sample.Row(1, "a", nil, api.Val{Kind: 3})
+	if !slices.Equal(got, []api.Val{val.Int(1), val.Text("a"), val.Null(), {Kind: 3}}) {
+		t.Error(got)
+	}
+	one, two := [][][]api.Val{{got, nil}}, [][][]api.Val{{got}}
+	if !sample.SameEnvs(one, one) || sample.SameEnvs(one, two) || sample.SameEnvs(one, nil) || !sample.SameEnvs(nil, [][][]api.Val{}) {
+		t.Error("SameEnvs")
 	}
 }

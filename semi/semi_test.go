@@ -9,26 +9,10 @@ import (
 	"trommel/rows"
 	"trommel/sample"
 	"trommel/semi"
-	"trommel/val"
 )
 
-// v makes values of numbers, texts, and nil.
-func v(l ...any) []api.Val {
-	out := []api.Val{}
-	for _, x := range l {
-		switch x := x.(type) {
-		case int:
-			out = append(out, val.Int(x))
-		case string:
-			out = append(out, val.Text(x))
-		case api.Val:
-			out = append(out, x)
-		default:
-			out = append(out, val.Null())
-		}
-	}
-	return out
-}
+// v makes a row of numbers, texts, and nil.
+var v = sample.Row
 
 func rel(cols []int, l ...[]api.Val) api.Rel { return api.Rel{Cols: cols, Rows: l} }
 

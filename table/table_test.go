@@ -15,22 +15,8 @@ import (
 	"trommel/val"
 )
 
-func v(l ...any) []api.Val {
-	out := []api.Val{}
-	for _, x := range l {
-		switch x := x.(type) {
-		case int:
-			out = append(out, val.Int(x))
-		case string:
-			out = append(out, val.Text(x))
-		case api.Val:
-			out = append(out, x)
-		default:
-			out = append(out, val.Null())
-		}
-	}
-	return out
-}
+// v makes a row of numbers, texts, and nil.
+var v = sample.Row
 
 func same(a, b [][]api.Val) bool { return slices.EqualFunc(a, b, rows.Same) }
 
