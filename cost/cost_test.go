@@ -49,6 +49,7 @@ func TestShareOfNumbers(t *testing.T) {
 		{1, 0, 5, [6]float64{0.02, 0.98, 1, 1, 0, 0}, 0.5},
 		{2, 0, 5, [6]float64{1, 0, 1, 1, 0, 0}, 1},
 		{9, 9, 5, [6]float64{1, 0, 1, 1, 0, 0}, 1},
+		{3, 0, 5, [6]float64{1, 0, 1, 1, 0, 0}, 1},
 		{-1, -1, 5, [6]float64{1, 0, 1, 1, 0, 0}, 1},
 		{0, 7, 5, [6]float64{1, 0, 1, 1, 0, 0}, 1},
 	} {
@@ -142,7 +143,7 @@ func TestSize(t *testing.T) {
 		want int
 	}{
 		{nil, 1}, {[]int{1}, 1000}, {[]int{2, 1}, frac.Scale(20000, frac.Of(1, 300))}, {[]int{1, 2, 1, -1, 9, 2}, frac.Scale(20000, frac.Of(1, 300))}, {[]int{0, 2}, 20},
-		{[]int{2, 0, 1}, frac.Scale(20000, frac.And(cost.Pair(n, s, 0, 1), cost.Pair(n, s, 0, 2), cost.Pair(n, s, 1, 2)))}, {[]int{7}, 1},
+		{[]int{2, 0, 1}, frac.Scale(20000, frac.And(cost.Pair(n, s, 0, 1), cost.Pair(n, s, 0, 2), cost.Pair(n, s, 1, 2)))}, {[]int{7}, 1}, {[]int{3}, 1}, {[]int{1, 3}, 1000},
 	} {
 		in := slices.Clone(c.set)
 		if got := cost.Size(n, s, in); got != c.want || !slices.Equal(in, c.set) {

@@ -54,6 +54,9 @@ func opts(batch, budget int) api.Opts {
 func TestSteps(t *testing.T) {
 	p := joined(t, "select a.x from a join b on a.x = b.x where b.y < 5")
 	m := exec.Start(p, tables(), opts(2, 100))
+	if m.At(-1) != 0 || m.At(2) != 0 || m.At(math.MaxInt) != 0 || m.At(math.MinInt) != 0 {
+		t.Error("no such pipe")
+	}
 	if m.Done() || !slices.Equal(m.Ready(), []int{1}) || m.At(0) != 0 || m.At(1) != 0 || m.Used() != 0 || len(m.Dropped()) != 0 {
 		t.Error("nothing is done")
 	}
@@ -185,6 +188,18 @@ func TestRun(t *testing.T) {
 	m := exec.Start(stuck, tables(), opts(2, 100))
 	if e := m.Run([]int{0, 1}); e != api.ErrState || m.Done() {
 		t.Error(e)
+	}
+}
+
+// P35.5: picks go ahead of all else.
+func TestPicksGoAhead(t *testing.T) {
+	p := joined(t, "select a.x from a semi join b on a.x = b.x left join b c on c.x = a.x")
+	l := append(tables(), tables()[1])
+	for pick, want := range map[int][2]int{1: {4, 0}, 2: {0, 4}} {
+		m := exec.Start(p, l, opts(2, 4))
+		if e := m.Run([]int{0, pick, pick}); e != api.ErrBudget || m.At(1) != want[0] || m.At(2) != want[1] || m.Used() != 4 {
+			t.Error(pick, e, m.At(1), m.At(2), m.Used())
+		}
 	}
 }
 
@@ -355,7 +370,7 @@ func TestOddPlans(t *testing.T) {
 		{}, {Order: []int{0}}, {Order: []int{5}, Pipes: make([]api.Pipe, 2)}, {Order: []int{-1}, Pipes: make([]api.Pipe, 2)}, {Pipes: make([]api.Pipe, 2)},
 		{Order: []int{0}, Pipes: []api.Pipe{{Filters: []int{0, 7, -1}}, {}}, Filters: []api.Filter{{From: 9, To: -4, ToCols: []int{99}}}},
 		{Order: []int{0}, Pipes: []api.Pipe{{Filters: []int{0}}, {}}, Filters: []api.Filter{{From: 0, FromCols: []int{9}, To: 0, ToCols: []int{-9}}}},
-		{Order: []int{0}, Pipes: []api.Pipe{{}, {}}, Probes: []api.Probe{{Table: -1}, {Table: 99, Join: 2}, {Table: 0, Join: 4}, {Table: 1, Keys: []api.Edge{{A: -1, AC: 9, B: 7, BC: -7}}}}},
+		{Order: []int{0}, Pipes: []api.Pipe{{}, {}}, Probes: []api.Probe{{Table: -1, Join: 2}, {Table: 99, Join: 2}, {Table: 2, Join: 4}, {Table: math.MinInt, Join: 2}, {Table: 1, Join: 2}, {Table: 0, Join: 4}, {Table: 1, Keys: []api.Edge{{A: -1, AC: 9, B: 7, BC: -7}}}}},
 		{Order: []int{1}, Pipes: []api.Pipe{{}, {Needs: []int{0, 0}}}, Probes: []api.Probe{{Table: 0, Rest: []api.Expr{yes}}, {Table: 0, Keys: []api.Edge{{}, {}}, Join: 3}}},
 		{Order: []int{0}, Pipes: []api.Pipe{{Needs: []int{0}}, {Needs: []int{9}}}},
 	} {

@@ -154,6 +154,28 @@ func TestBestOfAll(t *testing.T) {
 	}
 }
 
+// P30.2, P30.3: a core of just MaxBest tables has a best order, which Pick takes.
+func TestMostBest(t *testing.T) {
+	unlike := 0
+	for seed := range 20 {
+		n, s := some(sample.New(seed), api.MaxBest)
+		best := order.Best(n, s)
+		if !order.Right(n, best) || !slices.Equal(order.Pick(n, s), best) {
+			t.Error(best)
+		}
+		if !slices.Equal(best, order.Greedy(n, s)) {
+			unlike++
+		}
+		n, s = some(sample.New(seed), api.MaxBest+1)
+		if len(order.Best(n, s)) != 0 || !slices.Equal(order.Pick(n, s), order.Greedy(n, s)) {
+			t.Error("one more")
+		}
+	}
+	if unlike == 0 {
+		t.Error("Best and Greedy are not told apart")
+	}
+}
+
 // P30.2, P30.3, P30.4
 func TestGreedySteps(t *testing.T) {
 	for seed := range 60 {

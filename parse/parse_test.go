@@ -102,6 +102,7 @@ func TestQuery(t *testing.T) {
 		"select x from a left join b c on x semi join d on y anti join e as f on z join g on 1 = 1": ".x |0 a  none |2 b c .x |3 d  .y |4 e f .z |1 g  (= 1 1) where none",
 		"select x from a where x = 1 or y":                                                          ".x |0 a  none where (or (= .x 1) .y)",
 		"select x from a where x group by x, a.y":                                                   ".x |0 a  none where .x by .x by a.y",
+		"select 'count', 'max' from t":                                                              `"count" "max" |0 t  none where none`,
 		"select count(*) from a group by y":                                                         "(rows) |0 a  none where none by .y",
 		"select a = 1 and b from a":                                                                 "(and (= .a 1) .b) |0 a  none where none",
 	} {
@@ -138,7 +139,7 @@ func TestSyntax(t *testing.T) {
 		"select x from t where x is not", "select x from t where x is null is null", "select x from t where (x", "select x from t where x)",
 		"select x from t where ()", "select x from t where not", "select x from t where x and", "select x from t where or x",
 		"select -1 from t", "select x from t where x = -1", "select + from t", "select 1 2 from t", "select a.b.c from t", "select a. from t",
-		"select .a from t", "select a.1 from t", "select 'a' 'b' from t", "select x from t where x not = 1", "select x from t where 1 not null",
+		"select .a from t", "select 'sum'(x) from t", "select x from t where x '=' y", "select x from t where x 'is' null", "select x from a 'join' b on x", "select a.1 from t", "select 'a' 'b' from t", "select x from t where x not = 1", "select x from t where 1 not null",
 		"select x from t where x !", "SELECT x from t", "select select from t", "select x from t where x = not y",
 	} {
 		wrong(t, s, api.ErrSyntax)

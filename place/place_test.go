@@ -90,6 +90,14 @@ func TestColumn(t *testing.T) {
 	}
 }
 
+// P31.1: columns that norm does not number.
+func TestColumnPastAll(t *testing.T) {
+	n := api.Norm{Scan: make([][]api.Expr, 12)}
+	if place.Column(n, 8, -1) != -1 || place.Column(n, 11, -1) != -1 || place.Column(n, 7, 112) != 0 {
+		t.Error("Column")
+	}
+}
+
 // P31.2
 func TestBetween(t *testing.T) {
 	n := mixed(t, "semi", "", "left")
@@ -183,6 +191,7 @@ func TestPassing(t *testing.T) {
 		{api.Filter{From: 3, FromCols: []int{2, 0}, To: 1, ToCols: []int{1, 2}}, 10, 200},
 		{api.Filter{From: 2, FromCols: []int{2}, To: 1, ToCols: []int{2}}, 50, 40},
 		{api.Filter{From: 2, FromCols: []int{2}, To: 1, ToCols: []int{9}}, 50, 0},
+		{api.Filter{From: 3, FromCols: []int{2}, To: 1, ToCols: []int{2}}, 10, 40},
 		{api.Filter{From: 4, To: 9, ToCols: []int{0}}, 0, 0},
 		{api.Filter{From: 77, To: 0, ToCols: []int{0}}, 0, 100},
 	} {

@@ -153,6 +153,17 @@ func TestOfFilters(t *testing.T) {
 	}
 }
 
+// P32.1: Needs rise, each once, in whatever order filters stand.
+func TestNeeds(t *testing.T) {
+	n := wide(t)
+	ord := []int{1, 2, 0}
+	all := place.All(n, ord)
+	p := plan.Of(n, ord, []api.Filter{all[5], all[4], all[5], all[4]})
+	if !slices.Equal(p.Pipes[2].Filters, []int{0, 1, 2, 3}) || !slices.Equal(p.Pipes[2].Needs, []int{0, 4}) {
+		t.Error(show(p))
+	}
+}
+
 // What is answered is new memory.
 func TestOfMemory(t *testing.T) {
 	n := wide(t)

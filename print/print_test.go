@@ -79,6 +79,8 @@ func TestExpr(t *testing.T) {
 		{of(api.OpNe, of(api.OpNot, x()), of(api.OpAnd, x(), x())), "(not a.x) <> (a.x and a.x)"},
 		{of(api.OpGt, x(), of(api.OpNotNull, x())), "a.x > (a.x is not null)"},
 		{of(api.OpIsNull, of(api.OpAdd, x(), one())), "a.x + 1 is null"},
+		{of(api.OpNotNull, of(api.OpAdd, x(), one())), "a.x + 1 is not null"},
+		{of(api.OpNotNull, of(api.OpEq, x(), one())), "(a.x = 1) is not null"},
 		{of(api.OpIsNull, of(api.OpEq, x(), one())), "(a.x = 1) is null"},
 		{of(api.OpNotNull, of(api.OpIsNull, x())), "(a.x is null) is not null"},
 		{of(api.OpNotNull, of(api.OpMul, x(), one())), "a.x * 1 is not null"},

@@ -157,6 +157,9 @@ func TestFind(t *testing.T) {
 	if db[1].Rows[0] == nil {
 		t.Error("shared")
 	}
+	if first, ok := schema.Find(db, "u"); !ok || first.Name != "u" || len(first.Rows) != 3 {
+		t.Error("the table at place 0", first)
+	}
 	for _, s := range []string{"", "x", "T"} {
 		got, ok = schema.Find(db, s)
 		if ok || got.Name != "" || got.Cols != nil || got.Rows != nil {
@@ -200,6 +203,9 @@ func TestWithout(t *testing.T) {
 		if schema.Size(got) != size || schema.Size(db) != 9 {
 			t.Error(i, schema.Size(got))
 		}
+	}
+	if got := schema.Without(db, "u", 1); len(got[0].Rows) != 2 || schema.Size(got) != 8 {
+		t.Error("the table at place 0", got)
 	}
 	if got := schema.Without(db, "x", 0); schema.Size(got) != 9 || len(got) != 3 {
 		t.Error("no such table", got)

@@ -73,6 +73,9 @@ func TestAdd(t *testing.T) {
 
 // P19.1, P19.3
 func TestUnion(t *testing.T) {
+	low := []api.Val{{Kind: -4, I: 2}, {Kind: -3}}
+	same(t, "nulls behind what is below them", span.Union(span.Add(span.Span{}, low...), span.Add(span.Span{}, val.Null())), append(low, val.Null()))
+	same(t, "nulls ahead", span.Union(span.Add(span.Span{}, val.Null()), span.Add(span.Span{}, low...)), append(low, val.Null()))
 	l := some()
 	for end := range len(l) + 1 {
 		for at := range end + 1 {

@@ -74,7 +74,7 @@ func TestWords(t *testing.T) {
 			t.Errorf("%q %q %v %v", c.s, l, places, ok)
 		}
 	}
-	for _, s := range []string{"'", "a '", "'a", "'a''", "'''", "'a'b", "'a'' ", "''a", "b 'a'-", "'a''b'c", "x 'y' 'z", "''''' x", "'a'\v"} {
+	for _, s := range []string{"'", "a '", "'a", "'a''", "'''", "'a'b", "'a'b'", "'a'b' c", "'a'' ", "''a", "b 'a'-", "'a''b'c", "x 'y' 'z", "''''' x", "'a'\v"} {
 		l, places, ok := text.Words(s)
 		if ok || len(l) != 0 || len(places) != 0 {
 			t.Errorf("%q %q", s, l)

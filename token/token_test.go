@@ -86,6 +86,8 @@ func TestOne(t *testing.T) {
 		{"1<=2", 1, api.Tok{Kind: api.TokSign, Text: "<=", At: 1}, 3},
 		{"''", 0, api.Tok{Kind: api.TokText}, 2},
 		{" 'a'b", 0, api.Tok{Kind: api.TokText, Text: "a", At: 1}, 4},
+		{"''x'", 0, api.Tok{Kind: api.TokText}, 2},
+		{"''' x'' '", 0, api.Tok{Kind: api.TokText, Text: "' x' "}, 9},
 		{"'a''b'", 0, api.Tok{Kind: api.TokText, Text: "a'b"}, 6},
 		{"''''", 0, api.Tok{Kind: api.TokText, Text: "'"}, 4},
 		{"'''''' '", 0, api.Tok{Kind: api.TokText, Text: "''"}, 6},
