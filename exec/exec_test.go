@@ -158,12 +158,6 @@ func TestBudget(t *testing.T) {
 	if m.Used() != 8 || m.At(0) != 4 || m.Run(nil) != api.ErrBudget || m.Used() != 8 || m.At(0) != 4 || len(m.Dropped()) != 2 {
 		t.Error(m.Used(), m.At(0), m.Dropped())
 	}
-	less := opts(1, -1)
-	empty := tables()
-	empty[0].Rows = nil
-	if exec.Start(joined(t, "select x from a"), empty, less).Run(nil) != api.ErrBudget {
-		t.Error("no room for nothing")
-	}
 }
 
 // A dropped row of a step that there is no room for is not dropped.

@@ -54,7 +54,7 @@ func TestWithout(t *testing.T) {
 				if !same(got[k].Rows, want) || got[k].Name != tab.Name || len(got[k].Cols) != 2 {
 					t.Error(table, i, k)
 				}
-				if len(got[k].Rows) > 0 {
+				if k == table && len(got[k].Rows) > 0 {
 					got[k].Rows[0] = nil
 				}
 			}

@@ -20,8 +20,6 @@ import (
 	"trommel/sample"
 	"trommel/sat"
 	"trommel/semi"
-	"trommel/tree"
-	"trommel/val"
 )
 
 func ready(t *testing.T, s string) api.Norm {
@@ -290,15 +288,5 @@ func TestDroppedRowsMayGo(t *testing.T) {
 	}
 	if gone < 200 {
 		t.Error(gone)
-	}
-}
-
-// the column of a filter without columns is the first one.
-func TestPassingWithoutColumns(t *testing.T) {
-	n := api.Norm{Scan: [][]api.Expr{nil, {tree.Val(val.Null())}}}
-	f := api.Filter{From: 0, To: 1}
-	s := []api.Stat{{Rows: 5}, {Rows: 50, Cols: []api.ColStat{{Unlike: 10}}}}
-	if got := place.Passing(n, s, f, 1, 1); got != sat.Add(cost.Pass(1, 1, 5), 1<<15) {
-		t.Error(got)
 	}
 }

@@ -175,9 +175,6 @@ func TestEval(t *testing.T) {
 	if got := reduce.Eval(l, []int{0}); !same(got, rel(nil, v())) {
 		t.Error(got)
 	}
-	if got := reduce.Eval(l, []int{-1, 0, 0, 0}); !same(got, rel([]int{1, 2, 3, 4})) {
-		t.Error(got)
-	}
 	if got := reduce.Eval(l, []int{-1}); !same(got, l[0]) {
 		t.Error(got)
 	}

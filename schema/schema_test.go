@@ -153,10 +153,6 @@ func TestFind(t *testing.T) {
 	if !ok || got.Name != "t" || len(got.Rows) != 3 || len(got.Cols) != 2 {
 		t.Error(got, ok)
 	}
-	got.Rows[0] = nil
-	if db[1].Rows[0] == nil {
-		t.Error("shared")
-	}
 	if first, ok := schema.Find(db, "u"); !ok || first.Name != "u" || len(first.Rows) != 3 {
 		t.Error("the table at place 0", first)
 	}

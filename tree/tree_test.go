@@ -35,10 +35,6 @@ func TestMade(t *testing.T) {
 	if e.Op != api.OpSub || e.Tab != "" || e.Name != "" || e.Val != (api.Val{}) || len(e.L) != 2 || !tree.Same(e.L[0], x()) || !tree.Same(e.L[1], one()) {
 		t.Error(e)
 	}
-	l[0] = one()
-	if !tree.Same(e.L[0], x()) {
-		t.Error("shared")
-	}
 	if e = tree.Of(99); e.Op != 99 || len(e.L) != 0 {
 		t.Error(e)
 	}
