@@ -75,6 +75,7 @@ func TestOrder(t *testing.T) {
 		{pipes([]int{0}, nil), []int{1}, []int{0, 1}},
 		{pipes([]int{1}, []int{0}, nil, []int{2, 2}, []int{3, 0}), []int{2, 3}, []int{0, 0, 1, 2, 0}},
 		{pipes([]int{7}, []int{-1}), nil, []int{0, 0}},
+		{pipes([]int{2}, nil), []int{1}, []int{0, 1}},
 		{pipes([]int{3}, []int{0}, []int{1}, nil), []int{3, 0, 1, 2}, []int{2, 3, 4, 1}},
 	} {
 		if got := ready.Order(c.p); !slices.Equal(got, c.order) || ready.Acyclic(c.p) != (len(c.order) == len(c.p.Pipes)) {
