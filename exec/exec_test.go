@@ -257,12 +257,17 @@ func some(t *testing.T, seed int) (api.Plan, []api.Table, string, *sample.Dice) 
 
 // P35.3, P35.4, P35.6: whatever the picks, batches and buckets.
 func TestAgainstModel(t *testing.T) {
-	drops := 0
+	drops, late := 0, 0
 	for seed := range 500 {
 		p, tables, s, d := some(t, seed)
 		o := api.Opts{Seed: d.To(9), Words: d.To(3), Bits: d.To(4), Budget: math.MaxInt}
 		used, dropped, envs := model(p, tables, o)
 		drops += len(dropped)
+		for _, drop := range dropped {
+			if drop.Table >= len(p.Order) {
+				late++
+			}
+		}
 		for range 3 {
 			o.Buckets, o.Batch = d.To(9), d.To(5)
 			m := exec.Start(p, tables, o)
@@ -287,8 +292,8 @@ func TestAgainstModel(t *testing.T) {
 			o.Budget = math.MaxInt
 		}
 	}
-	if drops < 200 {
-		t.Error(drops)
+	if drops < 200 || late < 20 {
+		t.Error(drops, late)
 	}
 }
 

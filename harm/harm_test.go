@@ -181,8 +181,28 @@ func TestDropped(t *testing.T) {
 	}
 }
 
+// P37.2, P37.3: by hand, of tables that are joined by left or anti.
+func TestDroppedLate(t *testing.T) {
+	a := api.Ask{Force: true, Opts: api.Opts{Words: 64, Bits: 3, Budget: 100}}
+	for _, join := range []string{"left", "anti"} {
+		s := "select p.x from b q join a p on p.x = q.x " + join + " join a r on r.x = q.x"
+		got, e := harm.Dropped(base(), s, a)
+		want := []api.Drop{{Table: 1, Row: 2}, {Table: 1, Row: 4}, {Table: 2, Row: 2, Filter: 1}, {Table: 2, Row: 4, Filter: 1}}
+		if e != api.OK || !slices.Equal(got, want) {
+			t.Error(join, got, e)
+		}
+		q, tables := resolved(t, base(), s)
+		for _, drop := range got {
+			if !harm.Harmless(tables, q, drop.Table, drop.Row) {
+				t.Error(join, drop)
+			}
+		}
+	}
+}
+
 // P37.3, G2
 func TestDroppedRowsMayGo(t *testing.T) {
+	late := 0
 	for seed := range 300 {
 		d := sample.New(seed)
 		db := sample.Tables(d, 6)
@@ -195,6 +215,9 @@ func TestDroppedRowsMayGo(t *testing.T) {
 			if !harm.Harmless(tables, q, drop.Table, drop.Row) {
 				t.Error(s, drop)
 			}
+			if drop.Table >= norm.Core(q) {
+				late++
+			}
 			left = harm.Without(left, drop.Table, drop.Row)
 		}
 		want, f := harm.Tell(tables, q)
@@ -202,6 +225,9 @@ func TestDroppedRowsMayGo(t *testing.T) {
 		if e != api.OK || f != g || !same(got, want) {
 			t.Error("all of them together", s)
 		}
+	}
+	if late < 20 {
+		t.Error(late)
 	}
 }
 

@@ -106,7 +106,9 @@ func TestBetween(t *testing.T) {
 		{0, 1, []int{0}, []int{1}}, {1, 0, []int{1}, []int{0}}, {1, 2, []int{2}, []int{2}}, {0, 2, nil, nil}, {0, 0, nil, nil},
 		{3, 0, []int{2}, []int{0}}, {3, 1, []int{2, 0, 1}, []int{1, 2, 0}}, {3, 2, []int{0}, []int{2}},
 		{4, 0, []int{0}, []int{0}}, {4, 1, []int{0}, []int{1}}, {4, 2, nil, nil}, {5, 1, []int{1}, []int{2}}, {5, 2, []int{1}, []int{2}},
-		{0, 3, nil, nil}, {3, 3, nil, nil}, {3, 4, nil, nil}, {6, 0, nil, nil}, {-1, 0, nil, nil}, {0, -1, nil, nil}, {0, 6, nil, nil},
+		{0, 3, []int{0}, []int{2}}, {1, 3, []int{1, 2, 0}, []int{2, 0, 1}}, {2, 3, []int{2}, []int{0}},
+		{0, 4, []int{0}, []int{0}}, {1, 4, []int{1}, []int{0}}, {2, 4, nil, nil}, {1, 5, []int{2}, []int{1}}, {2, 5, []int{2}, []int{1}}, {0, 5, nil, nil},
+		{3, 3, nil, nil}, {3, 4, nil, nil}, {5, 3, nil, nil}, {6, 0, nil, nil}, {-1, 0, nil, nil}, {0, -1, nil, nil}, {0, 6, nil, nil}, {3, 6, nil, nil}, {-1, 3, nil, nil}, {3, -1, nil, nil},
 	} {
 		a, b := place.Between(n, c.from, c.to)
 		if !slices.Equal(a, c.a) || !slices.Equal(b, c.b) {
@@ -121,9 +123,21 @@ func TestBetween(t *testing.T) {
 	if a, b := place.Between(late, 2, 0); !slices.Equal(a, []int{0}) || !slices.Equal(b, []int{0}) {
 		t.Error("keys of late tables", a, b)
 	}
+	if a, b := place.Between(late, 0, 2); !slices.Equal(a, []int{0}) || !slices.Equal(b, []int{0}) {
+		t.Error("keys of late tables, from the core", a, b)
+	}
+	if a, b := place.Between(late, 1, 2); len(a) > 0 || len(b) > 0 {
+		t.Error("two late tables", a, b)
+	}
 	odd := api.Norm{Scan: make([][]api.Expr, 2), Late: []api.Late{{Keys: []api.Edge{{A: 0, AC: 16, B: 2}, {A: -1, B: 2}, {A: 1, AC: 3, B: 2, BC: 7}}}}}
 	if a, b := place.Between(odd, 2, 1); !slices.Equal(a, []int{7}) || !slices.Equal(b, []int{3}) {
 		t.Error(a, b)
+	}
+	if a, b := place.Between(odd, 1, 2); !slices.Equal(a, []int{3}) || !slices.Equal(b, []int{7}) {
+		t.Error(a, b)
+	}
+	if a, b := place.Between(odd, 0, 2); len(a) > 0 || len(b) > 0 {
+		t.Error("a column past all", a, b)
 	}
 }
 
@@ -140,11 +154,15 @@ func TestAll(t *testing.T) {
 		{ready(t, "select a.x from a left join b on a.x = b.x"), []int{0}, ""},
 		{ready(t, "select a.x from a anti join b on a.x = b.x"), []int{0}, ""},
 		{ready(t, "select a.x from a semi join b on a.x = b.x"), []int{0}, "1(0)0(0)"},
-		{mixed(t, "semi", "", "left"), []int{1, 0, 2}, "3(2)0(0) 4(0)0(0) 0(0)1(1) 2(2)1(2) 3(2,0,1)1(1,2,0) 4(0)1(1) 3(0)2(2)"},
-		{mixed(t, "anti", "left", "semi"), []int{1, 0, 2}, "0(0)1(1) 2(2)1(2) 5(1)1(2) 5(1)2(2)"},
-		{mixed(t, "anti", "left", "left"), []int{0, 2}, ""},
-		{mixed(t, "anti", "left", "left"), []int{0, 1, 2}, "1(1)0(0) 2(2)1(2)"},
+		{mixed(t, "semi", "", "left"), []int{1, 0, 2}, "3(2)0(0) 4(0)0(0) 0(0)1(1) 2(2)1(2) 3(2,0,1)1(1,2,0) 4(0)1(1) 3(0)2(2) 2(2)5(1)"},
+		{mixed(t, "anti", "left", "semi"), []int{1, 0, 2}, "0(0)1(1) 2(2)1(2) 5(1)1(2) 5(1)2(2) 0(0)3(2) 2(2)3(0) 0(0)4(0)"},
+		{mixed(t, "anti", "left", "left"), []int{0, 2}, "2(2)3(0) 2(2)5(1)"},
+		{mixed(t, "anti", "left", "left"), []int{0, 1, 2}, "1(1)0(0) 2(2)1(2) 1(1,2,0)3(2,0,1) 2(2)3(0) 1(1)4(0) 1(2)5(1) 2(2)5(1)"},
 		{mixed(t, "anti", "left", "left"), nil, ""},
+		{mixed(t, "semi", "", "semi"), []int{0, 0, 0, 0, 0, 2}, "3(2)0(0) 4(0)0(0) 2(2)3(0)"},
+		{ready(t, "select a.x from a join b on a.x = b.x left join c on c.y = b.x"), []int{0, 1}, "1(0)0(0) 1(0)2(1)"},
+		{ready(t, "select a.x from a join b on a.x = b.x left join c on c.y = b.x"), []int{1, 0}, "0(0)1(0) 0(0)2(1)"},
+		{ready(t, "select a.x from a join b on a.x = b.x left join c on c.y = b.x anti join d on d.x = c.x"), []int{0, 1}, "1(0)0(0) 1(0)2(1)"},
 		{api.Norm{}, []int{0}, ""},
 	} {
 		if got := show(place.All(c.n, c.order)); got != c.want {
@@ -255,7 +273,7 @@ func matched(n api.Norm, tables []api.Table, f api.Filter, r []api.Val) bool {
 
 // P31.5, and G2
 func TestDroppedRowsMayGo(t *testing.T) {
-	gone := 0
+	gone, late := 0, 0
 	for seed := range 500 {
 		d := sample.New(seed)
 		db := sample.Tables(d, 5)
@@ -277,6 +295,9 @@ func TestDroppedRowsMayGo(t *testing.T) {
 					continue
 				}
 				gone++
+				if f.To >= n.Core {
+					late++
+				}
 				less := slices.Clone(tables)
 				less[f.To].Rows = rows.Without(tables[f.To].Rows, i)
 				got, g := deno.Rows(deno.Where(deno.Envs(less, q.From), q.Where), q)
@@ -286,7 +307,7 @@ func TestDroppedRowsMayGo(t *testing.T) {
 			}
 		}
 	}
-	if gone < 200 {
-		t.Error(gone)
+	if gone < 200 || late < 50 {
+		t.Error(gone, late)
 	}
 }

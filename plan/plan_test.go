@@ -97,8 +97,8 @@ func TestOf(t *testing.T) {
 	n := wide(t)
 	check(t, plan.Of(n, []int{1, 2, 0}, place.All(n, []int{1, 2, 0})),
 		"order 1,2,0",
-		"filter 4(0)0(0)", "filter 0(0)1(1)", "filter 2(0)1(1)", "filter 4(0)1(1)", "filter 0(0)2(0)", "filter 4(0)2(0)",
-		"pipe [a.y = 1] by [0] behind [4]", "pipe [] by [1,2,3] behind [0,2,3,4]", "pipe [c.z = 2] by [4,5] behind [0,4]", "pipe [d.y = 1] by [] behind []", "pipe [] by [] behind []",
+		"filter 4(0)0(0)", "filter 0(0)1(1)", "filter 2(0)1(1)", "filter 4(0)1(1)", "filter 0(0)2(0)", "filter 4(0)2(0)", "filter 0(0)3(0)", "filter 2(0)3(0)",
+		"pipe [a.y = 1] by [0] behind [4]", "pipe [] by [1,2,3] behind [0,2,3,4]", "pipe [c.z = 2] by [4,5] behind [0,4]", "pipe [d.y = 1] by [6,7] behind [0,2]", "pipe [] by [] behind []",
 		"first [1 = 1; null]",
 		"probe 2,1 [1.1=2.0] []", "probe 0,1 [1.1=0.0 2.1=0.0] [a.z < b.z; a.x = 1 or c.y = 1; a.x = 1 or b.x = 1 or c.x = 1]",
 		"probe 3,2 [0.0=3.0] [d.z < a.z]", "probe 4,3 [1.1=4.0] []",
@@ -110,6 +110,17 @@ func TestOf(t *testing.T) {
 		"probe 1,1 [0.0=1.1] [a.z < b.z]", "probe 2,1 [1.1=2.0 0.0=2.1] [a.x = 1 or c.y = 1; a.x = 1 or b.x = 1 or c.x = 1]",
 		"probe 3,2 [0.0=3.0] [d.z < a.z]", "probe 4,3 [1.1=4.0] []",
 		"where [d.x = 3]")
+}
+
+// P32.1: pipes of late tables, filtered by what the core keeps.
+func TestOfLate(t *testing.T) {
+	for word, join := range map[string]string{"left": "2", "anti": "4"} {
+		n := ready(t, "select a.x from a join b on a.x = b.x "+word+" join c on c.y = b.x")
+		check(t, plan.Of(n, []int{0, 1}, place.All(n, []int{0, 1})),
+			"order 0,1", "filter 1(0)0(0)", "filter 1(0)2(1)",
+			"pipe [] by [0] behind [1,2]", "pipe [] by [] behind []", "pipe [] by [1] behind [1]",
+			"first []", "probe 1,1 [0.0=1.0] []", "probe 2,"+join+" [1.0=2.1] []", "where []")
+	}
 }
 
 // P32.1

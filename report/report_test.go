@@ -90,6 +90,21 @@ func TestExplain(t *testing.T) {
 	}
 }
 
+// P40.3: rows of tables that are joined by left or anti are lost, too, by keys of the core.
+func TestLostLate(t *testing.T) {
+	tables := "table a col x int row 1 row 2 table b col x int row 2 row 3 table c col x int row 1 row 2 row null row 5"
+	for _, join := range []string{"left", "anti"} {
+		s := "select a.x from a join b on a.x = b.x " + join + " join c on c.x = b.x"
+		want := "drive b\nfilter a 0 to b 0\nfilter a 0 to c 0\nscan a\nscan b by 0 behind a behind c\nscan c by 1 behind a\njoin a on b.0=a.0\n" + join + " c on b.0=c.0\n"
+		if got := report.Explain(tables, s, ask(true, 99)); got != want {
+			t.Error(got)
+		}
+		if got := report.Lost(tables, s, ask(true, 99)); got != "lost b 1 0\nlost c 2 1\nlost c 3 1\n" {
+			t.Error(join, got)
+		}
+	}
+}
+
 // P40.3
 func TestLost(t *testing.T) {
 	if got := report.Lost(tables, "select w.x from a w semi join b on w.x = b.x", ask(true, 99)); got != "lost w 2 0\nlost w 3 0\n" {
