@@ -210,6 +210,11 @@ func TestPassing(t *testing.T) {
 		{api.Filter{From: 3, FromCols: []int{2}, To: 1, ToCols: []int{2}}, 10, 40},
 		{api.Filter{From: 4, To: 9, ToCols: []int{0}}, 0, 0},
 		{api.Filter{From: 77, To: 0, ToCols: []int{0}}, 0, 100},
+		{api.Filter{From: 3, FromCols: []int{2}, To: 0, ToCols: []int{-1}}, 10, 0},
+		{api.Filter{From: 3, FromCols: []int{2}, To: 0}, 10, 0},
+		{api.Filter{From: 3, To: 0, ToCols: []int{}}, 10, 0},
+		{api.Filter{From: 4, To: 0}, 0, 0},
+		{api.Filter{}, 1000, 0},
 	} {
 		for _, size := range [][2]int{{1, 1}, {16, 3}, {0, 0}, {4096, 5}} {
 			want := min(1<<16, sat.Add(cost.Pass(size[0], size[1], c.keys), frac.Scale(1<<16, frac.Of(c.keys, c.of))))
@@ -217,6 +222,27 @@ func TestPassing(t *testing.T) {
 				t.Error(c, size, got, want)
 			}
 		}
+	}
+}
+
+// P31.4: without ToCols 0 stands in the place of Unlike, so that all may pass, whatever is said of the table To.
+func TestPassingWithoutColumns(t *testing.T) {
+	n := ready(t, "select a.x from a join b on a.x = b.x")
+	of := []api.ColStat{{Unlike: 500}, {Unlike: 700}}
+	for _, from := range []api.Stat{{}, {Rows: 10, Cols: []api.ColStat{{Unlike: 10}}}, {Rows: math.MaxInt}, {Rows: -1}} {
+		for _, to := range []api.Stat{{}, {Rows: 1000}, {Rows: 1000, Cols: of}} {
+			s := []api.Stat{to, from}
+			if got := place.Passing(n, s, api.Filter{From: 1}, 1, 1); got != 1<<16 {
+				t.Error(from, to, got)
+			}
+			if got := place.Passing(n, s, api.Filter{From: 1, FromCols: []int{0}, ToCols: []int{}}, 4096, 5); got != 1<<16 {
+				t.Error(from, to, got)
+			}
+		}
+	}
+	s := []api.Stat{{Rows: 1000, Cols: of}, {Rows: 10}}
+	if got := place.Passing(n, s, api.Filter{From: 1, FromCols: []int{0}, ToCols: []int{0}}, 1, 1); got != 10856 {
+		t.Error("a first column", got)
 	}
 }
 
