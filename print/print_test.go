@@ -109,7 +109,8 @@ func TestQuery(t *testing.T) {
 		want string
 	}{
 		{api.Query{}, "select  from "},
-		{api.Query{Items: []api.Expr{x(), one()}, From: []api.From{{Join: 3, Table: "a", As: "b", On: x()}}}, "select a.x, 1 from a b"},
+		{api.Query{Items: []api.Expr{x(), one()}, From: []api.From{{Table: "a", As: "b", On: x()}}}, "select a.x, 1 from a b"},
+		{api.Query{Items: []api.Expr{x()}, From: []api.From{{Join: 3, Table: "a", As: "b", On: x()}, {Join: 2, Table: "c", On: one()}}}, "select a.x from  semi join a b left join c on 1"},
 		{api.Query{
 			Items: []api.Expr{x()},
 			From: []api.From{
@@ -123,6 +124,27 @@ func TestQuery(t *testing.T) {
 	} {
 		if got := print.Query(c.q); got != c.want {
 			t.Error(got)
+		}
+	}
+}
+
+// P10.3: but the comma stands ahead of the first one as of any other.
+func TestFirstTable(t *testing.T) {
+	for _, c := range []struct {
+		join        int
+		first, next string
+	}{
+		{api.JoinInner, " join ", " join "}, {api.JoinLeft, " left join ", " left join "},
+		{api.JoinSemi, " semi join ", " semi join "}, {api.JoinAnti, " anti join ", " anti join "},
+		{0, "", ", "}, {5, "", ", "}, {9, "", ", "}, {-1, "", ", "}, {math.MinInt, "", ", "}, {math.MaxInt, "", ", "},
+	} {
+		alone := []api.From{{Join: c.join, Table: "a", On: one()}}
+		if got := print.Query(api.Query{From: alone}); got != "select  from "+c.first+"a" {
+			t.Error(c.join, got)
+		}
+		two := append(alone, api.From{Join: c.join, Table: "b", On: one()})
+		if got := print.Query(api.Query{From: two}); got != "select  from "+c.first+"a"+c.next+"b on 1" {
+			t.Error(c.join, got)
 		}
 	}
 }
